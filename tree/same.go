@@ -4,6 +4,7 @@ import (
 	"strings"
 
 	"carillon/api"
+	"carillon/lists"
 )
 
 // Same is whether a and b are the same, but for their places.
@@ -68,14 +69,14 @@ func alike[T any](a, b []T, same func(x, y T) bool) bool {
 func Copy(e api.Expr) api.Expr {
 	root := []api.Expr{copyPart(e)}
 	walk(root, func(part *api.Expr, _ int) {
-		part.Args = copied(part.Args, copyPart)
+		part.Args = lists.Each(part.Args, copyPart)
 	})
 	return root[0]
 }
 
 // CopyProgram is p again, with lists of its own.
 func CopyProgram(p api.Program) api.Program {
-	return api.Program{Nodes: copied(p.Nodes, copyNode)}
+	return api.Program{Nodes: lists.Each(p.Nodes, copyNode)}
 }
 
 func copyNode(n api.Node) api.Node {
@@ -83,10 +84,10 @@ func copyNode(n api.Node) api.Node {
 		Flow: n.Flow,
 		Name: strings.Clone(n.Name),
 		At:   n.At,
-		Ins:  copied(n.Ins, copyParam),
-		Outs: copied(n.Outs, copyParam),
-		Vars: copied(n.Vars, copyParam),
-		Eqs:  copied(n.Eqs, copyEq),
+		Ins:  lists.Each(n.Ins, copyParam),
+		Outs: lists.Each(n.Outs, copyParam),
+		Vars: lists.Each(n.Vars, copyParam),
+		Eqs:  lists.Each(n.Eqs, copyEq),
 	}
 }
 
@@ -96,23 +97,11 @@ func copyParam(p api.Param) api.Param {
 }
 
 func copyEq(q api.Eq) api.Eq {
-	return api.Eq{Names: copied(q.Names, strings.Clone), At: q.At, E: Copy(q.E)}
+	return api.Eq{Names: lists.Each(q.Names, strings.Clone), At: q.At, E: Copy(q.E)}
 }
 
 // copyPart is e, which still has the Args that it had.
 func copyPart(e api.Expr) api.Expr {
 	e.Name = strings.Clone(e.Name)
 	return e
-}
-
-// copied is a new list of what one makes of each element; nil, if list is.
-func copied[T any](list []T, one func(T) T) []T {
-	if list == nil {
-		return nil
-	}
-	made := make([]T, len(list))
-	for i := range list {
-		made[i] = one(list[i])
-	}
-	return made
 }

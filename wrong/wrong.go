@@ -33,3 +33,14 @@ func Caught(caught any) error {
 	}
 	panic(caught)
 }
+
+// Tried is the error of New that ended the work by a panic, or nil.
+func Tried(work func()) (err error) {
+	defer func() {
+		if caught := recover(); caught != nil {
+			err = Caught(caught)
+		}
+	}()
+	work()
+	return nil
+}

@@ -49,3 +49,25 @@ func TestCaught(t *testing.T) {
 		}
 	}
 }
+
+// Tried answers New's errors; what ends the work otherwise goes on.
+func TestTried(t *testing.T) {
+	want, done := New("no such thing", 5, api.ErrSyntax), 0
+	if err := Tried(func() { done++ }); err != nil || done != 1 {
+		t.Errorf("work that ends: %v, done %d times", err, done)
+	}
+	err := Tried(func() {
+		done++
+		panic(want)
+	})
+	if err != want || done != 2 {
+		t.Errorf("%v, not %v, done %d times", err, want, done)
+	}
+	defer func() {
+		if caught := recover(); caught != "other" {
+			t.Errorf("another panic: %v", caught)
+		}
+	}()
+	err = Tried(func() { panic("other") })
+	t.Errorf("another panic is told as %v", err)
+}
